@@ -246,6 +246,28 @@ func TestP701Levels(t *testing.T) {
 	}
 }
 
+func TestBetween(t *testing.T) {
+	l, p := New(), plain{}
+	for _, c := range right() {
+		l.Put(c.entry, c.level)
+		p.put(c.entry, c.level)
+	}
+	for _, from := range someKeys() {
+		for _, to := range someKeys() {
+			want := p.from(from)
+			if to != "" {
+				want = slices.DeleteFunc(want, func(e api.Entry) bool { return e.Key >= to })
+			}
+			if got := l.Between(from, to); !slices.Equal(got, want) {
+				t.Errorf("Between(%.20q, %.20q): %.200v", from, to, got)
+			}
+			if got := (*List)(nil).Between(from, to); len(got) > 0 {
+				t.Errorf("Between(%.20q, %.20q) of nil: %v", from, to, got)
+			}
+		}
+	}
+}
+
 func TestP702Get(t *testing.T) {
 	l := New()
 	for _, e := range []api.Entry{put("a", 3, "x"), gone("a", 7), put("a", 5, "y"), put("ab", 4, "z"), put("", 2, "none"), put("c", math.MaxUint64, "most")} {
