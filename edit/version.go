@@ -38,13 +38,13 @@ func Apply(v Version, e Edit) (Version, api.Errno) {
 	if !isRight(next) {
 		return Version{}, api.ErrForm
 	}
-	next.Tables = copies(tables)
+	next.Tables = Fresh(tables)
 	return next, api.OK
 }
 
 // Whole tells the edit that makes a version of nothing.
 func Whole(v Version) Edit {
-	return Edit{Log: v.Log, Next: v.Next, Seq: v.Seq, Add: copies(v.Tables)}
+	return Edit{Log: v.Log, Next: v.Next, Seq: v.Seq, Add: Fresh(v.Tables)}
 }
 
 // Valid tells whether a version is right, in whatever order its tables stand.
@@ -119,8 +119,8 @@ func isApart(t, next api.Table) bool {
 
 func isFrom(least, n, most int) bool { return least <= n && n <= most }
 
-// copies tells the same tables in memory of their own.
-func copies(l []api.Table) []api.Table {
+// Fresh tells the same tables in memory of their own.
+func Fresh(l []api.Table) []api.Table {
 	l = slices.Clone(l)
 	for i, t := range l {
 		l[i].First, l[i].Last = strings.Clone(t.First), strings.Clone(t.Last)
